@@ -8,7 +8,6 @@ import (
 	"testing"
 
 	"palimpsest/api"
-	"palimpsest/stops"
 	"palimpsest/store"
 )
 
@@ -159,16 +158,12 @@ func faultsOf(t *testing.T, p *picture, base *store.Store, c call, fate api.Fate
 		if no != should {
 			t.Fatalf("%s: %v, want %v", said, no, should)
 		}
-		crashed := 0
-		for n, left := range stops.Images(s) {
-			if crashed++; crashed > 200 {
-				break
-			}
+		crashes(t, s, func(n int, left *store.Store) {
 			if wrong := between(before, after, whole(t, left)); wrong != "" {
 				t.Fatal(said, ", crash ", n, ": ", wrong)
 			}
 			leakyUnless(t, c.by < 0, left, said, n)
-		}
+		})
 		if wrong := between(before, after, whole(t, s)); wrong != "" {
 			t.Fatal(said, ": ", wrong)
 		}

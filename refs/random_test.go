@@ -72,7 +72,7 @@ func someClusters(rnd *rand.Rand, w *plain, n int) []int64 {
 	return list
 }
 
-// P16.1 to P16.5: longer scripts over right images: each answer and all bytes against the plain way, faults now and then, nothing but leaks found at any time, whatever a crash leaves; in the end all that was taken is given back.
+// P16.1 to P16.5: longer scripts over right images: each answer and all bytes against the plain way, faults now and then, nothing but leaks found at any time, nor in some of what a crash may leave; in the end all that was taken is given back.
 func TestLongScripts(t *testing.T) {
 	for seed := range 40 {
 		t.Run(fmt.Sprint(seed), func(t *testing.T) {
