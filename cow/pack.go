@@ -1,8 +1,6 @@
 package cow
 
 import (
-	"slices"
-
 	"palimpsest/api"
 	"palimpsest/deflate"
 )
@@ -12,7 +10,7 @@ const (
 	mostPacked = 16383 // bytes of which an entry can tell
 )
 
-// filling is the cluster into which packed bytes come. As long as one of those is led to that were put there, it is not taken for anything else.
+// filling is the cluster into which packed bytes come, as long as it is held by nothing but entries that were put here.
 type filling struct {
 	end  int64 // of those that were put there
 	list []placed
@@ -67,17 +65,20 @@ func (d *Disk) lay(h api.Head, list []change) int64 {
 }
 
 // open tells where the next packed bytes may come behind others, and the count of that cluster; 0: there is none.
+// Where the count tells of others too, those may lead to bytes that were not put here: another disk of this image may have taken the cluster anew.
 func (d *Disk) open() (int64, uint64) {
-	for _, p := range slices.Backward(d.filling.list) {
-		e, no := d.image.Entry(p.k)
-		if no != api.OK || e != p.entry {
-			continue
+	known, place := uint64(0), int64(0)
+	for _, p := range d.filling.list {
+		if e, no := d.image.Entry(p.k); no == api.OK && e == p.entry {
+			known++
+			place = e.Place
 		}
-		count, no := d.image.Count(e.Place)
-		if no != api.OK {
-			return 0, 0
-		}
-		return d.filling.end, count
 	}
-	return 0, 0
+	if known == 0 {
+		return 0, 0
+	}
+	if count, no := d.image.Count(place); no != api.OK || count != known {
+		return 0, 0
+	}
+	return d.filling.end, known
 }

@@ -274,6 +274,24 @@ func TestPackBehindWhatComesBack(t *testing.T) {
 	clean(t, k.s, "a")
 }
 
+// P20.4: another disk of the same image may take a cluster anew, and put there what looks the same: nothing of that is written over.
+func TestPackOfTwo(t *testing.T) {
+	k := alone(t, 10, 4, 8)
+	one, other := k.top(), over(t, k.top().Image(), nil)
+	k.did(0, packs(1, 0, 5, 5), forgets(0))
+	k.disks[0] = other
+	k.did(0, packs(1, 0, 5, 5), packs(1, 2, fresh(20, 2)...))
+	k.disks[0] = one
+	k.did(0, packs(1, 4, fresh(30, 2)...))
+	k.same()
+	for n := range 500 {
+		k.disks[0] = []*Disk{one, other}[n*n%7%2]
+		c := int64(n * n % 11 % 4)
+		k.do(0, []act{packs(1, 2*c, 5, n%3), forgets(c), packs(2, 2*c, n%5, 5)}[n%3])
+		k.same(n)
+	}
+}
+
 // P20.4: packed bytes whose cluster is let go of by what is done ahead of them in the same call.
 func TestPackOverThemselves(t *testing.T) {
 	for first := range int64(5) {
