@@ -66,7 +66,7 @@ func TestNoRoom(t *testing.T) {
 		{writes(0, 7, 8, 9), 0}, {writes(2, 7, 8, 9), 2}, {writes(3, 7), 1}, {writes(5, 7, 8, 9), 3},
 		{writes(64, 7), 2}, {writes(62, 7, 8, 9, 10), 5}, {writes(64, 7, 8, 9, 10, 11, 12), 7},
 		{writes(128, 7), 2}, {writes(126, 7, 8, 9, 10), 6}, {writes(63, fresh(30, 66)...), 68},
-		{zeroes(0, 7), 0}, {zeroes(64, 1), 1}, {zeroes(63, 66), 2}, {zeroes(127, 11), 2}, {zeroes(128, 1), 1},
+		{zeroes(0, 7), 0}, {zeroes(64, 1), 1}, {zeroes(63, 66), 2}, {zeroes(127, 2), 2}, {writes(127, 7, 8), 4}, {zeroes(127, 11), 2}, {zeroes(128, 1), 1},
 		{packs(1, 0, 7, 8, 9), 1}, {packs(1, 67, 7, 8), 2}, {packs(1, 126, 7, 8, 9, 10), 3},
 		{packs(1, 126, wild, 8, wild+1, 10), 5}, {packs(1, 0, wild, 8, wild+1, wild+2), 2},
 		{forgets(0), 0}, {forgets(64), 1}, {forgets(128), 0}, {settles(3), 1}, {settles(7), 1}, {settles(67), 2}, {settles(128), 2}, {settles(5), 0},
@@ -185,6 +185,20 @@ func TestPutRefused(t *testing.T) {
 	// One cluster was taken, and one is held once less.
 	if now := k.counted(); now != held {
 		t.Error(held, now)
+	}
+}
+
+// P20.4: likewise of what is packed: the count of the cluster that others are in, too, is as great as there are such entries.
+func TestPutOfPackedRefused(t *testing.T) {
+	k := alone(t, 10, 4, 8)
+	k.did(0, writes(0, 1, 2, 3, 4, 5, 6), packs(1, 6, 9, 9))
+	old, open := entryOf(t, k.top(), 1), entryOf(t, k.top(), 3)
+	want(t, k.top().Image().Free(old.Place, 1), api.OK)
+	want(t, k.top().Pack(0, rowOf(7, 7, 8, 8, 10, 10), 1), api.ErrBroken)
+	sameBytes(t, reads(t, k.top(), 0, 2), rowOf(7, 7))
+	sameBytes(t, reads(t, k.top(), 4, 4), rowOf(5, 6, 9, 9))
+	if now := entryOf(t, k.top(), 0); now.Place != open.Place+int64(open.Len) || entryOf(t, k.top(), 1) != old || countOf(t, k.top(), 3) != 2 {
+		t.Error(now, entryOf(t, k.top(), 1), countOf(t, k.top(), 3))
 	}
 }
 

@@ -193,24 +193,48 @@ func TestPackBehind(t *testing.T) {
 	}
 }
 
-// P20.4: a count can only be so great: then the next ones come into a cluster of their own.
+// P20.4: there is room for what fills a cluster up to its last byte, not for a byte more; be they of one call or of two.
+func TestPackToTheLastByte(t *testing.T) {
+	one := packingTo(t, 1024, 500)
+	for _, long := range []int{523, 524, 525} {
+		for _, at := range []int{1024, 2048} {
+			k := alone(t, 10, 4, 6)
+			b := slices.Concat(one, packingTo(t, 1024, long), one)
+			want(t, k.top().Pack(0, b[:at], 1), api.OK)
+			want(t, k.top().Pack(int64(at), b[at:], 1), api.OK)
+			first, last := entryOf(t, k.top(), 0), entryOf(t, k.top(), 1)
+			if (last.Place == first.Place+500) != (long <= 524) {
+				t.Error(long, at, first, last)
+			}
+			sameBytes(t, reads(t, k.top(), 0, 6), b)
+			clean(t, k.s, "a")
+		}
+	}
+}
+
+// P20.4: a count can only be so great: then the next ones come into a cluster of their own, be they of one call or of many.
 func TestPackCounts(t *testing.T) {
 	for order, most := range []int64{1, 3, 15, 255} {
-		k := alone(t, 13, order, 16*300)
-		b := make([]byte, 1<<13)
-		list := map[int64]int64{}
-		for c := range int64(300) {
-			want(t, k.top().Pack(c<<13, b, 2), api.OK)
-			list[entryOf(t, k.top(), c).Place>>13]++
-		}
-		clean(t, k.s, "a")
-		for place, n := range list {
-			if n > most {
-				t.Error(order, place, n)
+		for _, each := range []int64{1, 7, 300} {
+			k := alone(t, 13, order, 16*300)
+			b := make([]byte, each<<13)
+			list := map[int64]int64{}
+			for c := int64(0); c < 300; c += each {
+				n := min(each, 300-c)
+				want(t, k.top().Pack(c<<13, b[:n<<13], 2), api.OK)
 			}
-		}
-		if int64(len(list)) != (300+most-1)/most {
-			t.Error(order, len(list))
+			for c := range int64(300) {
+				list[entryOf(t, k.top(), c).Place>>13]++
+			}
+			clean(t, k.s, "a")
+			for place, n := range list {
+				if n > most {
+					t.Error(order, each, place, n)
+				}
+			}
+			if int64(len(list)) != (300+most-1)/most {
+				t.Error(order, each, len(list))
+			}
 		}
 	}
 }

@@ -149,6 +149,18 @@ func TestOwn(t *testing.T) {
 			t.Error(c, own, no)
 		}
 	}
+	for sectors := range int64(10) {
+		d := alone(t, 10, 4, sectors).top()
+		for c := range int64(10) {
+			should := api.OK
+			if 2*c >= sectors {
+				should = api.ErrRange
+			}
+			if own, no := d.Own(c); own || no != should {
+				t.Error(sectors, c, own, no)
+			}
+		}
+	}
 }
 
 // P20.1: what is answered is new memory each time.
